@@ -120,6 +120,43 @@ func TestSumMoreGoesOnWhereSumOfStopped(t *testing.T) {
 	}
 }
 
+// wantOneSum holds what SumMore looks up in its table against what the other
+// functions work out.
+func wantOneSum(t *testing.T, text string) {
+	t.Helper()
+	want := impl.SumMore(4294967295, text)
+	if got := impl.SumOf(text); got != want {
+		t.Errorf("SumOf(%q) = %d; SumMore = %d", text, got, want)
+	}
+	seal := string([]byte{byte(want >> 24), byte(want >> 16), byte(want >> 8), byte(want)})
+	if s, ok := impl.Sealed(text); !ok || s != text+seal {
+		t.Errorf("Sealed(%q) = %q, %v; by SumMore it ends with %q", text, s, ok, seal)
+	}
+	if u, ok := impl.Unsealed(text + seal); !ok || u != text {
+		t.Errorf("Unsealed(%q and its SumMore) = %q, %v", text, u, ok)
+	}
+}
+
+func TestTableAndFunctionTellTheSameSums(t *testing.T) {
+	for b := range 256 {
+		wantOneSum(t, string([]byte{byte(b)}))
+		wantOneSum(t, string([]byte{byte(b), 0, byte(255 - b)}))
+	}
+	for first := range 256 {
+		for second := range 256 {
+			wantOneSum(t, string([]byte{byte(first), byte(second)}))
+		}
+	}
+	for _, text := range textsToTry() {
+		wantOneSum(t, text)
+		for _, more := range textsToTry() {
+			wantOneSum(t, text+more)
+		}
+	}
+	wantOneSum(t, strings.Repeat(allBytes(), 79)[:impl.MaxText-1])
+	wantOneSum(t, strings.Repeat(allBytes(), 79)[:impl.MaxText])
+}
+
 // The table is filled once, whoever comes first.
 func TestSumsOfManyAtOnce(t *testing.T) {
 	got := make([]uint32, 32)
