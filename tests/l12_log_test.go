@@ -142,13 +142,17 @@ func plainLogSteps(file string, old, now impl.Log) ([]impl.Raw, bool) {
 	return []impl.Raw{put("log+", plainLogFile(now)), move("log+", "log")}, true
 }
 
-// plainLogTerm looks at each index that a log has.
+// plainLogTerm looks at each index that a log has, as long as an int holds it.
 func plainLogTerm(l impl.Log, index int) int {
 	if index == l.Start {
 		return l.StartTerm
 	}
 	for at, e := range l.Entries {
-		if index == l.Start+1+at {
+		own := l.Start + 1 + at
+		if own < l.Start {
+			break
+		}
+		if index == own {
 			return e.Term
 		}
 	}
@@ -448,6 +452,59 @@ func TestLogTerms(t *testing.T) {
 		for index := l.Start - 130; index < l.Start+260; index++ {
 			if got := impl.LogTerm(l, index); got != plainLogTerm(l, index) {
 				t.Errorf("not right: LogTerm(%s, %d) = %d", shortLog(l), index, got)
+			}
+		}
+	}
+}
+
+// A log may begin where its indexes come to pass what an int holds: none of
+// them goes on from the least one.
+func TestLogTermOfIndexesThatAnIntDoesNotHold(t *testing.T) {
+	const least, most = math.MinInt, math.MaxInt
+	one, two := entries(noneOf(5)), entries(noneOf(5), noneOf(6))
+	for _, c := range []struct {
+		l           impl.Log
+		index, term int
+	}{
+		{logOf(most, 3, one...), least, -1},
+		{logOf(most, 3, one...), most, 3},
+		{logOf(most, 3, one...), most - 1, -1},
+		{logOf(most, 3, one...), least + 1, -1},
+		{logOf(most-1, 3, two...), least, -1},
+		{logOf(most-1, 3, two...), most, 5},
+		{logOf(most-1, 3, two...), most - 1, 3},
+		{logOf(most-1, 3, two...), most - 2, -1},
+		{logOf(most-2, 3, two...), most, 6},
+		{logOf(most-2, 3, two...), least, -1},
+		{logOf(least, 3, one...), least, 3},
+		{logOf(least, 3, one...), least + 1, 5},
+		{logOf(least, 3, one...), least + 2, -1},
+		{logOf(least, 3, one...), most, -1},
+		{logOf(least, 3, one...), 0, -1},
+		{logOf(-1, 3, two...), most, -1},
+		{logOf(-1, 3, two...), least, -1},
+		{logOf(-1, 3, two...), 0, 5},
+		{logOf(-1, 3, two...), 1, 6},
+		{logOf(0, 3, two...), least, -1},
+		{logOf(1, 3, two...), least, -1},
+		{logOf(most, 3), least, -1},
+		{logOf(least, 3), most, -1},
+	} {
+		if got := impl.LogTerm(c.l, c.index); got != c.term {
+			t.Errorf("LogTerm(%s, %d) = %d; want %d", shortLog(c.l), c.index, got, c.term)
+		}
+	}
+	far := []int{least, least + 1, least + 2, least + 7, least + 119, least + 121, -1 << 62, -3, -1, 0, 1, 2, 1 << 62, most - 121, most - 119, most - 7, most - 2, most - 1, most}
+	for _, start := range far {
+		for _, count := range []int{0, 1, 2, 8, 120, 300} {
+			l := logOf(start, 3)
+			for at := range count {
+				l.Entries = append(l.Entries, noneOf(10+at))
+			}
+			for _, index := range append(far, start-1, start+1, start+2, start+count-1, start+count, start+count+1) {
+				if got := impl.LogTerm(l, index); got != plainLogTerm(l, index) {
+					t.Errorf("LogTerm(%s, %d) = %d; want %d", shortLog(l), index, got, plainLogTerm(l, index))
+				}
 			}
 		}
 	}
