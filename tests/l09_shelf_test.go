@@ -119,7 +119,7 @@ func plainOpen(d impl.Disk) (impl.Shelf, []impl.Raw, int) {
 	return s, append(plainDrops(d, man.Segs), torn...), 0
 }
 
-// plainDrops holds each Name against every SegName.
+// plainDrops holds each Name that may be one against every SegName.
 func plainDrops(d impl.Disk, segs []int) []impl.Raw {
 	var list []impl.Raw
 	for _, f := range d.Files {
@@ -128,6 +128,9 @@ func plainDrops(d impl.Disk, segs []int) []impl.Raw {
 		}
 	}
 	for _, f := range d.Files {
+		if !strings.HasPrefix(f.Name, "g") {
+			continue
+		}
 		for seg := range 1000 {
 			if f.Name == segFile(seg) && !slices.Contains(segs, seg) {
 				list = append(list, drop(f.Name))
