@@ -508,11 +508,15 @@ func listsOfOutcome(o outcome) []listPart {
 	return parts
 }
 
-// wantApart writes over one list of an answer after the other: none of the
-// others changes by it.
 func wantApart(t *testing.T, why string, o outcome) {
 	t.Helper()
-	parts := listsOfOutcome(o)
+	wantPartsApart(t, why, listsOfOutcome(o))
+}
+
+// wantPartsApart writes over one list of an answer after the other: none of the
+// others changes by it.
+func wantPartsApart(t *testing.T, why string, parts []listPart) {
+	t.Helper()
 	for at, part := range parts {
 		var was []string
 		for _, other := range parts {

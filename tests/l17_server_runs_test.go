@@ -559,19 +559,7 @@ func listsOfServed(o served) []listPart {
 
 func wantServedApart(t *testing.T, why string, o served) {
 	t.Helper()
-	parts := listsOfServed(o)
-	for at, part := range parts {
-		var was []string
-		for _, other := range parts {
-			was = append(was, other.text())
-		}
-		part.write()
-		for i, other := range parts {
-			if i != at && other.text() != was[i] {
-				t.Errorf("%s: the lists %d and %d of one answer share memory", why, at, i)
-			}
-		}
-	}
+	wantPartsApart(t, why, listsOfServed(o))
 }
 
 func booted(id int, d impl.Disk, limit int) served {
