@@ -535,10 +535,10 @@ func TestServeAppliesByEachKind(t *testing.T) {
 	}
 }
 
-func TestServeEntriesThatChangeNothing(t *testing.T) {
-	open, put := commandEntry(1, openNew()), commandEntry(1, putOf(1, 1, "a", "x"))
+// changingNothing are entries that leave each state as it is.
+func changingNothing() map[string]impl.Entry {
 	long := plainCommandText(putOf(1, 1, "a", "x"))
-	for why, e := range map[string]impl.Entry{
+	return map[string]impl.Entry{
 		"nothing":                   noneOf(1),
 		"a conf":                    confOf(1, "\x01\x02\x03"),
 		"no Data":                   commandOf(1, ""),
@@ -553,7 +553,12 @@ func TestServeEntriesThatChangeNothing(t *testing.T) {
 		"Old of OpPut":              commandEntry(1, impl.Command{Op: 3, Session: 1, Seq: 1, Key: "a", Old: "x"}),
 		"a longer form of a number": commandOf(1, "\x03\x81\x00\x01\x01a\x01x\x00"),
 		"the most Data":             commandOf(1, letters(120)),
-	} {
+	}
+}
+
+func TestServeEntriesThatChangeNothing(t *testing.T) {
+	open, put := commandEntry(1, openNew()), commandEntry(1, putOf(1, 1, "a", "x"))
+	for why, e := range changingNothing() {
 		s := committedTo(applyServer(t, open, e, put), 3)
 		o := wantPlainServe(t, why, s, tickOf(5))
 		want := []impl.Done{doneOf(1, open, "open 1"), doneOf(2, e, ""), doneOf(3, put, "put")}
